@@ -1,8 +1,6 @@
 package syntax
 
 import (
-	"slices"
-
 	"motley/api"
 	"motley/source"
 )
@@ -85,4 +83,11 @@ func isUnary(text string) bool { return text == notSign || text == minusSign }
 
 func isName(text string) bool { return kindOf(text) == api.TokName && !isWord(text) }
 
-func isWord(text string) bool { return slices.Contains(words[:], text) }
+func isWord(text string) bool {
+	for _, word := range words {
+		if word == text {
+			return true
+		}
+	}
+	return false
+}
